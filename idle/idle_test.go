@@ -336,7 +336,7 @@ func TestWaitingUntil(t *testing.T) { // P25.3
 		if class.Right(c) != api.OK {
 			t.Fatalf("%+v is not valid", c)
 		}
-		now, time := r.Intn(1<<40), 1+r.Intn(1<<r.Intn(32))
+		now, time := r.Intn(1<<40), r.Intn(1<<r.Intn(32))
 		s := idle.Sent(idle.State{Last: now - r.Intn(1<<r.Intn(32)), Avg: -r.Intn(1 << r.Intn(40))}, c, time, now)
 		if !idle.Over(s, now) {
 			continue
